@@ -1094,6 +1094,114 @@ func TestOneListManyTimesInAType(t *testing.T) {
 	}
 }
 
+// manyShared has one list three times behind many others; as a record it is right, and as kind 99 none.
+func manyShared(kind int) impl.Type {
+	list := listT(intT, textT)
+	x := impl.Type{Kind: impl.TyFn}
+	for range 10001 {
+		x.Kids = append(x.Kids, intT)
+	}
+	for range 3 {
+		x.Kids = append(x.Kids, impl.Type{Kind: kind, Names: []string{"a", "b"}, Kids: list})
+	}
+	return x
+}
+
+func wantOwnLists(t *testing.T, what string, answer, given impl.Type) {
+	t.Helper()
+	a, g := newMemory(), newMemory()
+	a.addType(answer)
+	g.addType(given)
+	for place, times := range a.places {
+		if times > 1 || g.places[place] > 0 {
+			t.Fatalf("%s: two lists of the answer share memory, or one with the argument", what)
+		}
+	}
+	if len(a.places) < 10000 {
+		t.Fatalf("%s: the answer is small", what)
+	}
+}
+
+func TestOneListSomeTimesBehindManyOthers(t *testing.T) {
+	for _, kind := range []int{impl.TyRecord, 99} {
+		x := manyShared(kind)
+		for _, mod := range []string{"m", "let"} {
+			got := impl.Rename(x, mod)
+			wantOwnLists(t, "Rename", got, x)
+			if !sameType(got, x) {
+				t.Error("Rename gives another one")
+			}
+		}
+	}
+	x := manyShared(impl.TyRecord)
+	union, _ := impl.Union(listT(textT, x, intT, x))
+	record, _ := impl.Record([]string{"b", "a"}, listT(x, x))
+	wantOwnLists(t, "Union", union, x)
+	wantOwnLists(t, "Record", record, x)
+}
+
+// greatType stands MaxDeep deep, and has each list ten times: no memory holds its text, nor all of its parts.
+func greatType(of impl.Type, deep int) impl.Type {
+	return deepened(of, deep, func(x impl.Type) impl.Type {
+		return recordT("a b c d e f g h i j", x, x, x, x, x, x, x, x, x, x)
+	})
+}
+
+// innermost goes down by some kid each time, and tells how many times.
+func innermost(t impl.Type, by int) (impl.Type, int) {
+	deep := 0
+	for ; len(t.Kids) > 0; deep++ {
+		t = t.Kids[(by+deep)%len(t.Kids)]
+	}
+	return t, deep
+}
+
+func wantGreat(t *testing.T, what string, x, of impl.Type, deep int) {
+	t.Helper()
+	for by := range 10 {
+		if got, at := innermost(x, by); at != deep || !sameType(got, of) || len(x.Names) != 10 || len(x.Kids) != 10 {
+			t.Fatalf("%s: %d deep stands %v", what, at, got)
+		}
+	}
+}
+
+func TestTypesThatNoMemoryHolds(t *testing.T) {
+	x := greatType(nameT("T"), impl.MaxDeep)
+	if !impl.TypeOk(x) || impl.TypeOk(recordT("a", x)) || impl.TypeOk(greatType(nameT("let"), impl.MaxDeep)) || impl.TypeOk(greatType(fnT(), impl.MaxDeep-1)) {
+		t.Error("TypeOk of a great type")
+	}
+	wantGreat(t, "Rename", impl.Rename(x, "m"), nameT("m.T"), impl.MaxDeep)
+	wantGreat(t, "Rename by no name", impl.Rename(x, "let"), nameT("T"), impl.MaxDeep)
+	wantNames(t, x, "T")
+	if impl.HasAny(x) || !impl.HasAny(greatType(anyT, impl.MaxDeep)) {
+		t.Error("HasAny of a great type")
+	}
+	union, ok := impl.Union(listT(x, x, x))
+	if !ok {
+		t.Fatal("a union of one great type")
+	}
+	wantGreat(t, "Union", union, nameT("T"), impl.MaxDeep)
+	wantNoUnion(t, "one that would be too deep", x, greatType(intT, 1))
+	wantNoRecord(t, "one that would be too deep", []string{"a"}, x)
+	// in the order of their texts, which part at their innermost ends
+	var kids []impl.Type
+	for _, name := range []string{"b", "m.T", "a", "m.S", "ab", "b"} {
+		kids = append(kids, greatType(nameT(name), impl.MaxDeep-1))
+	}
+	union, ok = impl.Union(append(kids, intT))
+	if !ok || len(union.Kids) != 6 || !sameType(union.Kids[0], intT) {
+		t.Fatal("a union of great types", ok, len(union.Kids))
+	}
+	for i, name := range []string{"a", "ab", "b", "m.S", "m.T"} {
+		wantGreat(t, "a union's kid", union.Kids[i+1], nameT(name), impl.MaxDeep-1)
+	}
+	if !impl.TypeOk(union) || impl.TypeOk(unionT(kids[0], kids[2])) || !impl.TypeOk(unionT(kids[2], kids[0])) {
+		t.Error("a union of great types in order, or out of it")
+	}
+	renamed := impl.Rename(unionT(greatType(nameT("T"), impl.MaxDeep-1), greatType(nameT("m.T"), impl.MaxDeep-1)), "m")
+	wantGreat(t, "a union that is one alone", renamed, nameT("m.T"), impl.MaxDeep-1)
+}
+
 func FuzzTypes(f *testing.F) {
 	for seed := range uint64(10) {
 		f.Add(someBytes(seed, 100), "m")

@@ -988,6 +988,42 @@ func TestDeepAndWideModules(t *testing.T) {
 	}
 }
 
+func TestGreatModulesAreShownWhole(t *testing.T) {
+	const many = 200000
+	wide, deep := exRecord(""), exInt(7)
+	var fields []string
+	for i := range many {
+		name := "a" + strconv.Itoa(1000000+i)
+		wide.Names = append(wide.Names, name)
+		wide.Kids = append(wide.Kids, exInt(7))
+		fields = append(fields, name+" = 7")
+	}
+	for range many {
+		deep = exCall(exName("f"), exAdd(deep, exInt(1)))
+	}
+	want := "let a = {" + strings.Join(fields, ", ") + "}\nlet b = " + strings.Repeat("f((", many) + "7" + strings.Repeat(" + 1))", many) + "\n"
+	if got := impl.ShowModule(moduleOf("", letDef("a", wide), letDef("b", deep))); got != want {
+		t.Error("a wide or a deep one", len(got), len(want))
+	}
+	// one list many times
+	doubled := exRecord("a b", exName("x"), exText("y"))
+	for i := range 16 {
+		doubled = []impl.Exp{exAdd(doubled, doubled), exIn("q", doubled, doubled), exCall(doubled, doubled), exRecord("c d", doubled, doubled)}[i%4]
+	}
+	m := moduleOf("", letDef("a", doubled), typeDef("T", intT), letDef("b", doubled))
+	if got := impl.ShowModule(m); got != showByWords(m) {
+		t.Error("one list many times", len(got))
+	}
+	// what is not shown need not have an end
+	hidden := exInt(3)
+	hidden.Kids = []impl.Exp{expWithinItself(impl.ExAdd, 2)}
+	more := exField(exName("x"), "y")
+	more.Kids = append(more.Kids, expWithinItself(impl.ExAdd, 2))
+	if got := impl.ShowModule(moduleOf("", letDef("a", hidden), letDef("b", more), letDef("c", exAdd(expWithinItself(impl.ExAdd, 2), exInt(1))), letDef("d", exInt(4)))); got != "let a = 3\nlet b = x.y\nlet c = \nlet d = 4\n" {
+		t.Errorf("with what has no end %q", got)
+	}
+}
+
 func TestAnyTextIsAnswered(t *testing.T) {
 	var texts []string
 	for _, s := range []string{"(", ")", "{", "{a=", "let x = ", "let x = (", "fn f(", "type T = ", "->", "import m ", "if ", "a.", "f(", "1+", "|", "type T = {a: ", "type T = () -> ", "\x00", "\"", "\n"} {

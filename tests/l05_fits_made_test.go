@@ -683,6 +683,45 @@ func TestUnionsWithinThemselvesAreNeverTold(t *testing.T) {
 	}
 }
 
+func TestListsOfWhatIsFoundAreItsOwn(t *testing.T) {
+	for _, kind := range []int{impl.TyRecord, 99} {
+		x := manyShared(kind)
+		env := []impl.Named{{Name: "a", Type: x}}
+		got, _ := impl.Lookup(env, "a")
+		wantOwnLists(t, "Lookup", got, x)
+		wantOwnLists(t, "Open", impl.Open(env, nameT("a")), x)
+		wantOwnLists(t, "Open of itself", impl.Open(env, x), x)
+	}
+	x := manyShared(impl.TyRecord)
+	got, _ := impl.FieldOf(nil, recordT("a", x), "a")
+	wantOwnLists(t, "FieldOf", got, x)
+}
+
+func TestTypesThatNoMemoryHoldsFit(t *testing.T) {
+	env := rightEnv(t, "A = B | text", "B = int")
+	great := func(text string) impl.Type { return greatType(typeFrom(t, text), impl.MaxDeep-1) }
+	a, b, c, any := great("int"), great("int | text"), great("A"), great("any")
+	if !impl.Fits(env, a, a) || !impl.Fits(env, a, b) || impl.Fits(env, b, a) || !impl.Both(env, b, c) || !impl.Both(env, c, any) || !impl.Fits(env, a, c) || impl.Fits(env, a, great("text")) {
+		t.Error("great types")
+	}
+	if !impl.Fits(env, fnT(c, a), fnT(a, c)) || impl.Fits(env, fnT(a, a), fnT(c, c)) {
+		t.Error("functions of great types")
+	}
+	field, ok := impl.FieldOf(env, c, "j")
+	if !ok {
+		t.Fatal("no field of a great type")
+	}
+	wantGreat(t, "FieldOf", field, nameT("A"), impl.MaxDeep-2)
+	wantGreat(t, "Open", impl.Open(env, c), nameT("A"), impl.MaxDeep-1)
+	wantReach(t, env, c, "A", "B")
+	env = append(env, impl.Named{Name: "C", Type: c}, impl.Named{Name: "D", Type: unionT(nameT("C"), nameT("E"))}, impl.Named{Name: "E", Type: a})
+	if !impl.EnvOk(env) || impl.Loops(env, "D") || !impl.Fits(env, nameT("E"), nameT("C")) || !impl.Both(env, nameT("D"), nameT("C")) || len(impl.Open(env, nameT("D")).Kids) != 2 {
+		t.Error("great types by their names")
+	}
+	got, _ := impl.Lookup(env, "C")
+	wantGreat(t, "Lookup", got, nameT("A"), impl.MaxDeep-1)
+}
+
 func TestGreatUnionsFit(t *testing.T) {
 	var less, more []impl.Type
 	for _, n := range numbered(1500, intT) {

@@ -873,22 +873,51 @@ func TestDeepAndWideExpressions(t *testing.T) {
 	if got, wrong := impl.Infer(nil, nil, nil, wide); len(got.Kids) != many || len(wrong) != 0 {
 		t.Error("a wide record", len(got.Kids), faultsText(wrong))
 	}
-	// one list very many times
-	shared := exInt(1)
-	for range 200 {
-		shared = exAdd(shared, shared)
+}
+
+// One list very many times: what is told of it once is told of it again, its faults, too.
+func TestOneListVeryManyTimesInAnExpression(t *testing.T) {
+	of := inferring{env: rightEnv(t, "T = {t: T}"), scope: envFrom(t, "t = T", "i = int")}
+	doubled := func(e impl.Exp, times int, twice func(e impl.Exp) impl.Exp) impl.Exp {
+		for range times {
+			e = twice(e)
+		}
+		return e
 	}
-	impl.Infer(nil, nil, nil, shared)
-	shared = exName("q")
-	for range 200 {
-		shared = exCall(shared, shared, shared)
+	sum := func(e impl.Exp) impl.Exp { return exAdd(e, e) }
+	of.want(t, doubled(exName("i"), 200, sum), "int", "")
+	of.want(t, doubled(exName("i"), 25, sum), "int", "")
+	of.want(t, exAdd(doubled(exName("i"), 200, sum), exText("")), "any", "0:plus")
+	of.want(t, doubled(exName("t"), 200, func(e impl.Exp) impl.Exp { return exIf(exTrue, e, exField(e, "t")) }), "T", "")
+	of.want(t, doubled(exName("i"), 200, func(e impl.Exp) impl.Exp { return exIn("y", e, e) }), "int", "")
+	of.want(t, doubled(exName("i"), 200, func(e impl.Exp) impl.Exp { return exIn("i", exAdd(e, e), e) }), "int", "")
+	of.want(t, doubled(exName("t"), 12, func(e impl.Exp) impl.Exp { return exField(exRecord("a b c", e, e, e), "b") }), "T", "")
+	for _, times := range []int{1, 5, 10, 16} {
+		got, wrong := impl.Infer(nil, nil, nil, doubled(exName("q"), times, sum))
+		if !sameType(got, anyT) || len(wrong) != 1<<times || slices.ContainsFunc(wrong, func(d impl.Diag) bool { return d.Code != "name" }) {
+			t.Error("faults of one list very many times:", len(wrong))
+		}
 	}
-	impl.Infer(nil, nil, nil, shared)
-	shared = exName("x")
-	for range 200 {
-		shared = exIn("y", shared, shared)
+	// in their order, and each scope by itself
+	e := exCall(exName("p"), exAdd(exName("i"), exText("")), exIn("i", exText(""), exAdd(exName("i"), exText(""))), exIn("p", exInt(1), exName("p")), exName("p"))
+	twice := exRecord("a b c", exIn("r", e, e), exIn("p", exText(""), e), e)
+	inferAsByWords(t, nil, nil, of.scope, doubled(twice, 3, func(e impl.Exp) impl.Exp { return exRecord("b a", e, exIn("i", e, e)) }))
+	// one list of kids by expressions that give its first one to other names, or to none
+	kids := []impl.Exp{exInt(1), exAdd(exName("x"), exName("y"))}
+	in := func(name string) impl.Exp { return impl.Exp{Kind: impl.ExIn, Text: name, Kids: kids} }
+	list := exCall(exName("none"), in("x"), in("y"), in("z"), impl.Exp{Kind: impl.ExSame, Kids: kids}, in("x"), in(""))
+	for _, scope := range []string{"x = text", "y = int", "y = text", "z = int"} {
+		inferAsByWords(t, nil, nil, envFrom(t, scope), list)
 	}
-	impl.Infer(nil, nil, []impl.Named{{Name: "x", Type: wrongTypes[0].t}}, shared)
+	// no memory holds all faults, nor all scopes
+	impl.Infer(nil, nil, nil, doubled(exName("q"), 200, func(e impl.Exp) impl.Exp { return exCall(e, e, e) }))
+	impl.Infer(nil, nil, []impl.Named{{Name: "x", Type: wrongTypes[0].t}}, doubled(exName("x"), 200, func(e impl.Exp) impl.Exp { return exIn("y", e, e) }))
+	endless := doubled(exInt(1), 60, func(e impl.Exp) impl.Exp { return exSame(exIn("x", exInt(1), e), exIn("x", exText(""), e)) })
+	// what stands behind it is told all the same
+	wrong, _ := impl.CheckModule("main", moduleOf("", letDef("a", endless), letDef("b", exAdd(exAdd(exInt(1), exInt(2)), exText("")))), nil)
+	if faultsText(wrong) != "0:plus" {
+		t.Error("behind what could not be gone through:", faultsText(wrong))
+	}
 }
 
 // Types that are made of types may grow with each level by a factor: some come to an end, none to no answer.
@@ -911,4 +940,54 @@ func TestRecordsThatGrow(t *testing.T) {
 	wantFaults(t, grown(12, 2, "let b = a12.a.b.a.b.a.b.a.b.a.b.a.b.c"), "14:field")
 	wantFaults(t, grown(13, 2, "let b = a13.c.d"), "")
 	wantFaults(t, grown(12, 20, "let b = q"), "14:name")
+	// of ten fields each, twelve deep
+	s = wantFaults(t, grown(12, 10, "let b: int = if true then 1 else a12.j.a.i.a.h.a.g.a.f.a.e.a\nlet c = if true then a12 else a12\nlet d = a12.a"), "")
+	for _, n := range s.Exports {
+		switch n.Name {
+		case "a12", "c":
+			wantGreat(t, n.Name, n.Type, intT, 12)
+		case "a11", "d":
+			wantGreat(t, n.Name, n.Type, intT, 11)
+		}
+	}
+	wantFaults(t, grown(12, 10, "let b: int = a12\nfn f(x: {a: {j: int}}): int = 1\nlet c = f(a2)\nlet d = f(a12)\nlet e = f(a12.a)"), "14:fit 17:fit 18:fit")
+	// within one expression, told whole
+	src := "let v = let a = 1 in " + strings.Repeat("let a = {p = a, q = a, r = a, s = a, t = a} in ", 8) + "a"
+	s = wantFaults(t, src, "")
+	of, wrong := impl.Infer(nil, nil, nil, mustParse(t, src).Defs[0].Exp)
+	for _, x := range listT(of, s.Exports[0].Type) {
+		answer := newMemory()
+		answer.addType(x)
+		if got, deep := innermost(x, 2); deep != 8 || !sameType(got, intT) || len(answer.places) < 488280+5*97656 || len(wrong) > 0 {
+			t.Error("a record eight deep", deep, len(answer.places), faultsText(wrong))
+		}
+	}
+}
+
+// What is no type is closed in its parts, however many there are.
+func TestManyPartsAreClosed(t *testing.T) {
+	odd := manyShared(99)
+	odd.Kids = append(odd.Kids, nameT("m.T"), nameT("m.U"), unionT(textT, intT), unionT(nameT("m.U"), intT))
+	m := impl.Summary{Name: "m", Types: []impl.Named{{Name: "m.T", Type: intT}}, Exports: []impl.Named{{Name: "v", Type: odd}}}
+	s := wantFaults(t, "import m\nlet a = m.v\nlet b = m.v", "", m)
+	odd.Kids = append(odd.Kids[:10004:10004], nameT("m.T"), anyT, unionT(intT, textT), anyT)
+	for _, n := range s.Exports {
+		wantOwnLists(t, "CheckModule", n.Type, odd)
+		if !sameType(n.Type, odd) {
+			t.Error("a type of many parts is closed otherwise")
+		}
+	}
+	// what is within itself is any where it leads back
+	for _, x := range withinItself() {
+		s := wantFaults(t, "import m\nlet a = m.v", "", impl.Summary{Name: "m", Exports: []impl.Named{{Name: "v", Type: x}}})
+		if len(s.Exports) != 1 {
+			t.Error("what is within itself is not told")
+		}
+	}
+	// what is very deep
+	deep := deepened(nameT("m.U"), 200000, func(x impl.Type) impl.Type { return fnT(x) })
+	s = wantFaults(t, "import m\nlet a = m.v", "", impl.Summary{Name: "m", Exports: []impl.Named{{Name: "v", Type: deep}}})
+	if got, at := innermost(s.Exports[0].Type, 0); at != 200000 || !sameType(got, anyT) {
+		t.Error("a type that is very deep", at)
+	}
 }

@@ -1132,46 +1132,130 @@ func TestDeepAndWideExpressionsAreRun(t *testing.T) {
 	}
 }
 
-// What doubles with each expression would be beyond all memory: it is told as lacking fuel.
+// What doubles with each expression is told whole, but for a text that no memory holds.
 func TestValuesThatDouble(t *testing.T) {
 	src := "let a = \"x\"\n" + strings.Repeat("let a=a+a\n", 200)
 	list := impl.Run(unitsFrom(t, "m", src), muchFuel)
 	last := len(list) - 1
-	if last < 22 || list[last].Code != impl.RunFuel || len(list[20].Val.S) != 1<<20 {
-		t.Error("texts", last)
+	if last < 30 || list[last].Code != impl.RunFuel {
+		t.Fatal("texts", last)
+	}
+	for i, d := range list[:28] {
+		if d.Code != impl.RunOk || len(d.Val.S) != 1<<i {
+			t.Fatal("a text", i, d.Code, len(d.Val.S))
+		}
 	}
 	src = "let a = 1\n" + strings.Repeat("let a={x=a,y=a}\n", 150)
 	list = impl.Run(unitsFrom(t, "m", src), muchFuel)
-	last = len(list) - 1
-	if last < 15 || list[last].Code != impl.RunFuel || strings.Count(impl.ValText(list[15].Val), "1") != 1<<15 {
-		t.Error("records", last)
+	if len(list) != 151 || list[150].Code != impl.RunOk || strings.Count(impl.ValText(list[15].Val), "1") != 1<<15 {
+		t.Fatal("records", len(list))
 	}
-	// a text where nothing of it is told, too
-	wantIs(t, "fn d(s: text, n: int): text = if n == 50 then s else d(s + s, n + 1)", "d(\"x\", 0) == d(\"y\", 0)", "fuel")
+	// the greatest one, too, on any way down
+	for way := range 5 {
+		v := list[150].Val
+		for level := range 150 {
+			if v.Kind != impl.VRecord || !slices.Equal(v.Names, []string{"x", "y"}) || len(v.Kids) != 2 {
+				t.Fatal("a record", level)
+			}
+			v = v.Kids[level>>way&1]
+		}
+		if !sameVal(v, vInt(1)) {
+			t.Fatal("at the end of a record", v)
+		}
+	}
+}
+
+// A text of which nothing is told need not be made.
+func TestTextsThatAreNotTold(t *testing.T) {
+	ahead := "fn d(s: text, n: int): text = if n == 50 then s else d(s + s, n + 1)\nfn e(s: text): text = d(d(d(s, 0), 0), 0)"
+	for exp, want := range map[string]string{
+		"d(\"x\", 0) == d(\"x\", 0)":                            "true",
+		"d(\"x\", 0) == d(\"y\", 0)":                            "false",
+		"d(\"xx\", 1) == d(\"x\", 0)":                           "true",
+		"d(\"x\", 0) + \"x\" == \"x\" + d(\"x\", 0)":            "true",
+		"d(\"x\", 0) + \"y\" == \"y\" + d(\"x\", 0)":            "false",
+		"d(\"ab\", 0) + \"a\" == \"a\" + d(\"ba\", 0)":          "true",
+		"d(\"ab\", 0) + \"a\" == \"a\" + d(\"bc\", 0)":          "false",
+		"d(\"x\", 0) == d(\"x\", 0) + \"x\"":                    "false",
+		"e(\"x\") == e(\"x\")":                                  "true",
+		"e(\"x\") == e(\"x\") + \"x\"":                          "false",
+		"e(\"x\") == e(\"y\")":                                  "false",
+		"{a = e(\"x\"), b = 1} == {b = 1, a = e(\"x\") + \"\"}": "true",
+		"{a = e(\"x\"), b = 7}.b":                               "7",
+		"let q = e(\"x\") in if q == \"\" then 1 else 2":        "2",
+		"e(\"\")":                     `""`,
+		"e(\"x\")":                    "fuel",
+		"{a = {b = e(\"x\")}, b = 1}": "fuel",
+	} {
+		wantIs(t, ahead, exp, want)
+	}
 	wantIs(t, "fn d(s: text, n: int): text = if n == 16 then s else d(s + s, n + 1)", "d(\"x\", 0) == d(\"x\", 0)", "true")
-	// but not a record, as what it holds twice is there once
+	wantIs(t, "fn d(s: text, n: int): text = if n == 16 then s else d(s + s, n + 1)", "d(\"x\", 0) + \"y\" == d(\"x\", 0) + \"z\"", "false")
+}
+
+// Texts of bytes 0 alone differ in nothing but their length.
+func TestLongTextsOfBytes0(t *testing.T) {
+	ahead := "fn d(s: text, n: int): text = if n == 50 then s else d(s + s, n + 1)"
+	long := func(s string, from int) impl.Exp { return exCall(exName("d"), exText(s), exInt(from)) }
+	wantVal(t, ahead, exSame(long("\x00", 0), long("\x00", 0)), vTrue, impl.RunOk)
+	wantVal(t, ahead, exSame(long("\x00", 0), long("\x00\x00", 1)), vTrue, impl.RunOk)
+	wantVal(t, ahead, exSame(long("\x00", 0), long("\x00", 1)), vFalse, impl.RunOk)
+	wantVal(t, ahead, exSame(long("\x00", 0), exAdd(long("\x00", 0), exText("\x00"))), vFalse, impl.RunOk)
+	wantVal(t, ahead, exSame(long("x", 0), exAdd(exText("\x00"), long("x", 0))), vFalse, impl.RunOk)
+	wantVal(t, ahead, exSame(long("\x00", 40), long("\x00", 41)), vFalse, impl.RunOk)
+	wantVal(t, ahead, exSame(exText("\x00"), exText("\x00\x00")), vFalse, impl.RunOk)
+}
+
+// A value holds another one twice that is there once.
+func TestRecordsThatAreNotTold(t *testing.T) {
 	ahead := "fn d(s: {a: int}, n: int): {a: int} = if n == 55 then s else d({a = s, b = s}, n + 1)\nfn e(s: {a: int}): {a: int} = d(d(d(s, 0), 0), 0)"
 	wantIs(t, ahead, "e(1) == e(1)", "true")
 	wantIs(t, ahead, "e(1) == e(2)", "false")
 	wantIs(t, ahead, "e(1) == 1", "false")
 	wantIs(t, ahead, "e(e(1)).a.b.a.b == e({a = 1}).b.b.b.b", "false")
 	wantIs(t, ahead, "{a = e(1)}.a.b.b.b == e(1).b.b.b", "true")
-	wantIs(t, ahead, "e(1)", "fuel")
-	wantIs(t, ahead, "{a = 1, b = e(1).a}", "fuel")
+	list := impl.Run(unitsFrom(t, "m", ahead+"\nlet a = {a = 1, b = e(1).a}"), muchFuel)
+	if last := list[len(list)-1]; last.Code != impl.RunOk || !sameVal(last.Val.Kids[0], vInt(1)) || len(last.Val.Kids[1].Kids) != 2 {
+		t.Error("a record that is greater than any memory")
+	}
 }
 
-// With all the fuel that there may be, what is done again and again comes to an end.
-func TestRunsThatWouldNotEnd(t *testing.T) {
-	ahead := "fn d(s: text, n: int): text = if n == 20 then s else d(s + s, n + 1)\nlet l = d(\"x\", 0)\nlet r = d(\"x\", 0)\n"
-	for _, twice := range []string{
-		"fn c(n: int): int = if n == 50 then 1 else (if l == r then c(n + 1) + c(n + 1) else 0)",
-		"fn c(n: int): int = if n == 50 then 1 else (if \"\" + l == l + \"\" then c(n + 1) + c(n + 1) else 0)",
-	} {
-		list := impl.Run(unitsFrom(t, "m", ahead+twice+"\nlet a = c(0)"), math.MaxInt)
-		if last := list[len(list)-1]; last.Name != "a" || last.Code != impl.RunFuel {
-			t.Error(last.Name, last.Code)
+// Texts that are made of many short ones, and told in many places.
+func TestTextsOfManyParts(t *testing.T) {
+	src := "fn up(s: text, n: int): text = if n == 50 then s else up(s + \"abc\" + s + \"d\", n + 1)\n"
+	want := "x"
+	var sums []string
+	for i := range 14 {
+		src += "let a" + strconv.Itoa(i) + " = up(\"x\", " + strconv.Itoa(50-i) + ")\n"
+		sums = append(sums, want)
+		want += "abc" + want + "d"
+	}
+	list := impl.Run(unitsFrom(t, "m", src+"let b = {p = a13, q = {r = a13, s = a12 + a0 + a13}}\nlet c = b.q.s == a12 + \"x\" + b.p\nlet d = a13 + \"q\" == \"q\" + a13"), muchFuel)
+	if len(list) != 18 {
+		t.Fatal(len(list))
+	}
+	for i, s := range sums {
+		if list[i+1].Val.S != s {
+			t.Error("a text of", len(s), "bytes has", len(list[i+1].Val.S))
 		}
 	}
+	if v := list[15].Val; v.Kids[0].S != sums[13] || v.Kids[1].Kids[0].S != sums[13] || v.Kids[1].Kids[1].S != sums[12]+"x"+sums[13] {
+		t.Error("texts within records")
+	}
+	if list[16].Val.N != 1 || list[17].Val.N != 0 {
+		t.Error("texts that are alike")
+	}
+}
+
+// There is no bound of expressions but fuel.
+func TestLongRuns(t *testing.T) {
+	units := unitsFrom(t, "m", "fn c(n: int): int = if n == 17 then 1 else c(n + 1) + c(n + 1)\nlet a = c(0)\nlet b = a")
+	// 15 for each call that calls two others, 5 for one that does not, and 3 for the first one
+	needed := 15*(1<<17-1) + 5*(1<<17) + 3
+	wantRun(t, units, needed+1, "m.c fn m.c", "m.a 131072", "m.b 131072")
+	wantRun(t, units, needed, "m.c fn m.c", "m.a 131072", "m.b fuel")
+	wantRun(t, units, needed-1, "m.c fn m.c", "m.a fuel")
+	wantRun(t, units, math.MaxInt, "m.c fn m.c", "m.a 131072", "m.b 131072")
 }
 
 // valWithinItself has itself for each kid.
@@ -1190,8 +1274,9 @@ func TestAnyValueIsAnswered(t *testing.T) {
 	env := rightEnv(t, "A = {a0: A}", "B = {a0: B | int} | bool", "C = {a0: {a0: C, a1: int}}", "D = {a0: {}, a1: {a0: any}}", "E = {a0: E, a1: F} | {a0: F}", "F = {a1: E | F}")
 	for _, kids := range []int{1, 2, 300} {
 		v := valWithinItself(kids)
-		if text := impl.ValText(v); !strings.HasPrefix(text, "{a0 = {a0 = {") || !strings.HasSuffix(text, "}") {
-			t.Error("the text of a value within itself begins with", text[:10])
+		// it has no end, and so no text
+		if text := impl.ValText(v); text != "" {
+			t.Error("the text of a value within itself has", len(text))
 		}
 		// what leads back to itself is of a type as it fits there
 		for name, want := range map[string]bool{"A": true, "B": true, "C": false, "D": kids > 1, "E": kids > 1, "F": kids > 1} {
@@ -1233,6 +1318,60 @@ func TestAnyValueIsAnswered(t *testing.T) {
 	parted := rightEnv(t, "T = {n: T, x: int} | {n: T, x: text} | bool")
 	if !impl.ValFits(parted, v, nameT("T")) || impl.ValFits(parted, v, recordT("n x", nameT("T"), intT)) {
 		t.Error("a union that parts late")
+	}
+}
+
+func TestGreatValuesAreShownWhole(t *testing.T) {
+	const many = 300000
+	wide, deep := vRecord(""), vText("x")
+	var fields []string
+	for i := range many {
+		name := "a" + strconv.Itoa(1000000+i)
+		wide.Names = append(wide.Names, name)
+		wide.Kids = append(wide.Kids, vInt(7))
+		fields = append(fields, name+" = 7")
+		deep = vRecord("a b", deep, vTrue)
+	}
+	if got := impl.ValText(wide); got != "{"+strings.Join(fields, ", ")+"}" {
+		t.Error("a wide one", len(got))
+	}
+	if got := impl.ValText(deep); got != strings.Repeat("{a = ", many)+"\"x\""+strings.Repeat(", b = true}", many) {
+		t.Error("a deep one", len(got))
+	}
+	doubled := vRecord("a b", vInt(-1), vFn("m", "f", 1))
+	for range 14 {
+		doubled = vRecord("c d e", doubled, vText("\""), doubled)
+	}
+	if got := impl.ValText(doubled); got != valTextByWords(doubled) {
+		t.Error("one list many times", len(got))
+	}
+	// what is not shown need not have an end
+	hidden := vInt(5)
+	hidden.Kids = valWithinItself(2).Kids
+	more := vRecord("a", vInt(1))
+	more.Kids = append(more.Kids, valWithinItself(1))
+	if impl.ValText(hidden) != "5" || impl.ValText(more) != "{a = 1}" || impl.ValText(vRecord("a", valWithinItself(1))) != "" {
+		t.Error("with what has no end")
+	}
+}
+
+// Each value has lists of its own, however often it is told.
+func TestGreatAnswersShareNothing(t *testing.T) {
+	src := "let a = 1\n" + strings.Repeat("let a={x=a,y=a}\n", 14)
+	list := impl.Run(unitsFrom(t, "m", src), muchFuel)
+	answer := newMemory()
+	answer.addDone(list)
+	wantNewMemory(t, "Run", answer, newMemory())
+	// of each record two places of names and two of kids
+	want := 0
+	for i, d := range list {
+		want += 4 * (1<<i - 1)
+		if d.Code != impl.RunOk {
+			t.Error("of", i)
+		}
+	}
+	if len(answer.places) < want {
+		t.Error("the answer has", len(answer.places), "places, and not", want)
 	}
 }
 
