@@ -30,6 +30,19 @@ func PutNum(n int) string {
 	return string(append(out, byte(n)))
 }
 
+func numSize(n int) int {
+	size := 1
+	for n >= 128 {
+		n /= 128
+		size++
+	}
+	return size
+}
+
+func textSize(s string) int {
+	return numSize(len(s)) + len(s)
+}
+
 func GetNum(s string, i int) (int, int) {
 	if i < 0 {
 		return 0, -1
