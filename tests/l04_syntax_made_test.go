@@ -867,6 +867,8 @@ func wholeModule(v reflect.Value) reflect.Value {
 		for i := range all.Len() {
 			out.Index(i).Set(wholeModule(all.Index(i)))
 		}
+	case reflect.Interface:
+		out.Set(wholeModule(v.Elem()))
 	}
 	return out
 }

@@ -464,19 +464,18 @@ func (m *memoryOf) addLevels(levels [][]string) {
 	}
 }
 
-// wantNewGraphs calls each function of the chapter with a list that has room behind it, and writes into what it
-// answers.
-func wantNewGraphs(t *testing.T, of []impl.Source) {
+// lookAtSet hands out a list with room behind it, its memory, and a look at what is answered of it.
+func lookAtSet(t *testing.T, of []impl.Source) (list []impl.Source, given *memoryOf, look func(what string, add func(a *memoryOf))) {
 	t.Helper()
-	list := make([]impl.Source, 0, len(of)+2)
+	list = make([]impl.Source, 0, len(of)+2)
 	for _, s := range of {
 		list = append(list, impl.Source{Name: strings.Clone(s.Name), Text: strings.Clone(s.Text)})
 	}
 	list[:cap(list)][len(list)] = impl.Source{Name: "spare", Text: "import spare"}
 	before := slices.Clone(list[:cap(list)])
-	given := newMemory()
+	given = newMemory()
 	given.addSources(list)
-	look := func(what string, add func(a *memoryOf)) {
+	look = func(what string, add func(a *memoryOf)) {
 		t.Helper()
 		answer := newMemory()
 		add(answer)
@@ -485,6 +484,14 @@ func wantNewGraphs(t *testing.T, of []impl.Source) {
 			t.Fatalf("%s wrote into\n%s", what, setText(of))
 		}
 	}
+	return list, given, look
+}
+
+// wantNewGraphs calls each function of the chapter with a list that has room behind it, and writes into what it
+// answers.
+func wantNewGraphs(t *testing.T, of []impl.Source) {
+	t.Helper()
+	list, given, look := lookAtSet(t, of)
 	look("SetOk", func(a *memoryOf) { impl.SetOk(list) })
 	look("Circles", func(a *memoryOf) { a.addNames(impl.Circles(list)) })
 	look("Order", func(a *memoryOf) { a.addNames(impl.Order(list)) })
