@@ -513,9 +513,9 @@ func TestTasksByAnyResultsAsTheWordsTell(t *testing.T) {
 			some++
 		}
 	}
-	madeReports(300, func(m *reportMaker, list []impl.Source) {
+	madeReports(200, func(m *reportMaker, list []impl.Source) {
 		all := impl.CheckAll(list)
-		for range 4 {
+		for range 3 {
 			done := partlyDone(&m.typeMaker, all)
 			for _, s := range list {
 				hold(list, done, s.Name)
@@ -523,7 +523,7 @@ func TestTasksByAnyResultsAsTheWordsTell(t *testing.T) {
 			hold(list, done, "n1")
 		}
 	})
-	for seed := range uint64(400) {
+	for seed := range uint64(150) {
 		m := &setMaker{typeMaker{bytes: someBytes(seed+939393, 700)}}
 		list := m.set()
 		done := partlyDone(&m.typeMaker, impl.CheckAll(list))
@@ -536,7 +536,7 @@ func TestTasksByAnyResultsAsTheWordsTell(t *testing.T) {
 			hold(list, []impl.Result{resultOf(dark("a")), resultOf(dark("b"))}, s.Name)
 		}
 	}
-	if some < 3000 || none < 1000 {
+	if some < 1500 || none < 500 {
 		t.Error("the test's results are of one sort:", some, none)
 	}
 }
