@@ -430,6 +430,13 @@ func TestTasksAtMaxBytes(t *testing.T) {
 		t.Fatal("the test's great summary is none")
 	}
 	wantNoTask(t, "a summary that no memory holds", list, []impl.Result{resultOf(great)}, "a")
+	// a short module of which more is told than a text may have
+	text := "let v = let a = 1 in " + strings.Repeat("let a = {p = a, q = a, r = a, s = a, t = a, u = a, v = a, w = a, x = a, y = a} in ", 8) + "a"
+	task = impl.TaskOf(sourcesOf("x", text), nil, "x")
+	if impl.Report(sourcesOf("x", text)) != "x: ok\n" || task != impl.PutTexts([]string{"x", text, "0", "\x00"}) {
+		t.Errorf("the task of a module of great types is %.300q", task)
+	}
+	wantNotDone(t, "a result of more than MaxBytes", task)
 }
 
 // wantDone holds DoTask of texts against the text and the summary of a result.
