@@ -610,6 +610,24 @@ func TestAnswersOfTheDeskThatNoMemoryHolds(t *testing.T) {
 	}
 }
 
+// What great types are told of goes over the net many times, and stands in many results.
+func TestGreatFarmsOfTheDesk(t *testing.T) {
+	before := heapSize()
+	list := sourcesOf("a", growing(5, 16))
+	want := "a: ok;"
+	for _, name := range []string{"b", "c", "d", "e", "f", "g"} {
+		list = append(list, impl.Source{Name: name, Text: "import a\nlet v = a.x5\n"})
+		want += name + ": ok;"
+	}
+	wantBehind(t, list, []string{"farm 3", "tick", "deliver 0", "deliver 0", "tick", "twice 0", "calm", "done"}, "ok", "0 1", "0 1", "1 0", "1 6", "1 7", "7 0", want)
+	// one that tells more than goes over the net is never done
+	list[1].Text += "let w = a.x5\nlet x = a.x5\nlet y = a.x5\n"
+	wantBehind(t, list[:3], []string{"farm 3", "calm", "done"}, "ok", "2 0", "wait")
+	if after := heapSize(); after > before+1<<30 {
+		t.Errorf("%d bytes taken", after-before)
+	}
+}
+
 func heapSize() uint64 {
 	var m runtime.MemStats
 	runtime.ReadMemStats(&m)
