@@ -605,6 +605,15 @@ func TestAnswersOfTheDeskThatNoMemoryHolds(t *testing.T) {
 	if got := impl.Desk(script(behind(sourcesOf("a", text), "check a", "order")...)); got != "ok\na: ok;\na\n" {
 		t.Error(got)
 	}
+	// what is told of one module keeps nothing of what others came to, however often they are others
+	texts := strings.ReplaceAll(text[:strings.Index(text, "let x25")], "\n", " ") + "\n"
+	lines, want := behind(sourcesOf("a", "let x = 1\n", "b", texts)), "ok\nok\n"
+	for range 40 {
+		lines, want = append(lines, "module c", "--", "run a"), want+"ok\nx=1\n"
+	}
+	if got := impl.Desk(script(lines...)); got != want {
+		t.Errorf("%.300q", got)
+	}
 	if after := heapSize(); after > before+1<<31 {
 		t.Errorf("%d bytes taken for what no memory holds", after-before)
 	}
